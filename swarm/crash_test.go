@@ -49,9 +49,7 @@ func (h *history) crashIn(e api.Event, i, after, keep int) (memory, bool) {
 	if len(w.Held(i)) != 0 || w.Incarnation(i) != 0 || !w.Do(api.Event{Kind: api.EvStart, Peer: i}) {
 		h.t.Fatal("after a loss of power peer", i, "is not down")
 	}
-	other := *h
-	other.w = w
-	return other.memoryOf(i), true
+	return memoryOf(w, i, h.read(i, w.Image(i))), true
 }
 
 // expectBetween checks that of each object that is in some of the lists, what is now the case is what was before or would have been after. It reports whether something has changed.
@@ -69,14 +67,13 @@ func expectBetween(t *testing.T, before, after, now []api.Digest) bool {
 // expectCrashes lets the power be lost at each write of an event of a peer, after some numbers of bytes.
 func (h *history) expectCrashes(e api.Event, i int) {
 	h.t.Helper()
-	before := h.memoryOf(i)
-	whole := *h
-	whole.w = h.replayed()
-	whole.w.Do(e)
-	after := whole.memoryOf(i)
-	if len(h.w.Faulty()) > 0 || bytes.Equal(whole.w.Image(i), h.w.Image(i)) || !slices.Contains(whole.w.Running(), i) {
-		return // nothing is written, or the power is lost anyway
+	h.note(e)
+	whole := h.replayed()
+	whole.Do(e)
+	if bytes.Equal(whole.Image(i), h.w.Image(i)) {
+		return // nothing is written
 	}
+	before, after := h.peers[i], memoryOf(whole, i, h.read(i, whole.Image(i)))
 	for write := 0; ; write++ {
 		for _, keep := range []int{0, 1, 30, 60, 127, 128} {
 			now, lost := h.crashIn(e, i, write, keep)
@@ -102,6 +99,9 @@ func TestCrashes(t *testing.T) {
 	seen := parallel(t, 64, func(t *testing.T, seed uint64, seen map[string]int) {
 		h := newHistory(t, seed)
 		h.seen = seen
+		if seed%2 == 0 {
+			h.narrow() // the journal is often rewritten
+		}
 		h.weights[api.EvArm], h.weights[api.EvRot], h.weights[api.EvWipe] = 0, 0, 0
 		h.weights[api.EvDelete] += 5
 		for range 250 {
@@ -114,5 +114,5 @@ func TestCrashes(t *testing.T) {
 		}
 	})
 	t.Log(seen)
-	expectSeen(t, seen, map[string]int{"whole": 80, "nothing": 300})
+	expectSeen(t, seen, map[string]int{"whole": 40, "nothing": 250})
 }

@@ -84,6 +84,9 @@ func TestDurability(t *testing.T) {
 	seen := parallel(t, 100, func(t *testing.T, seed uint64, seen map[string]int) {
 		h := newHistory(t, seed)
 		h.seen = seen
+		if seed%3 == 0 {
+			h.narrow()
+		}
 		for range 700 {
 			h.do(h.anyEvent())
 			h.expectDurable()

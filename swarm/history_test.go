@@ -25,8 +25,9 @@ type object struct {
 
 // content is what the disk of a peer contains.
 type content struct {
-	image []byte
-	sound map[api.Digest]bool // the objects of which it has a sound piece
+	image  []byte
+	sound  map[api.Digest]bool // the objects of which it has a sound piece
+	graves []api.Digest
 }
 
 // memory is what a peer has and knows.
@@ -78,6 +79,17 @@ func (h *history) begin(s api.Setup) {
 	}
 	h.w, h.setup = w, s
 	h.disks, h.peers = make([]content, s.Peers), make([]memory, s.Peers)
+}
+
+// narrow begins anew with disks and a quota that may be too small.
+func (h *history) narrow() {
+	h.t.Helper()
+	s := h.setup
+	s.Blocks = 4 + h.r.IntN(60)
+	if h.r.IntN(2) == 0 {
+		s.Quota = h.r.IntN(200)
+	}
+	h.begin(s)
 }
 
 // anyKind returns a kind of events.
@@ -153,10 +165,10 @@ func (h *history) look(i int, kind api.EventKind, own, ran bool) {
 	switch runs := slices.Contains(h.w.Running(), i); {
 	case runs && own && kind == api.EvStart:
 		h.expectRemembered(i)
-		h.peers[i] = h.memoryOf(i)
+		h.peers[i] = memoryOf(h.w, i, h.disks[i])
 	case runs:
 		rotten := last.rotten
-		h.peers[i] = h.memoryOf(i)
+		h.peers[i] = memoryOf(h.w, i, h.disks[i])
 		h.peers[i].rotten = rotten
 	case ran && (!own || kind != api.EvCrash && kind != api.EvLeave):
 		last.torn = true
@@ -164,11 +176,11 @@ func (h *history) look(i int, kind api.EventKind, own, ran bool) {
 	}
 }
 
-// memoryOf returns what a peer has and knows.
-func (h *history) memoryOf(i int) memory {
-	m := memory{held: h.w.Held(i), inc: h.w.Incarnation(i)}
-	for _, r := range h.w.Records(i) {
-		if r.Kind == api.RecordGrave {
+// memoryOf returns what a peer has and knows. Of the graves that it knows, only those count that are on its disk: there may be no room for others.
+func memoryOf(w *swarm.World, i int, c content) memory {
+	m := memory{held: w.Held(i), inc: w.Incarnation(i)}
+	for _, r := range w.Records(i) {
+		if r.Kind == api.RecordGrave && slices.Contains(c.graves, r.Object) {
 			m.graves = append(m.graves, r.Object)
 		}
 	}
@@ -178,7 +190,7 @@ func (h *history) memoryOf(i int) memory {
 // expectRemembered checks P10.13 for a peer that has just started: it has and knows what its predecessor had and knew.
 func (h *history) expectRemembered(i int) {
 	h.t.Helper()
-	before, now := h.peers[i], h.memoryOf(i)
+	before, now := h.peers[i], memoryOf(h.w, i, h.disks[i])
 	if before.rotten {
 		return
 	}
@@ -209,6 +221,7 @@ func (h *history) read(i int, image []byte) content {
 		c.sound[id] = true
 		h.seen["sound pieces"]++
 	}
+	c.graves = s.Graves()
 	return c
 }
 

@@ -59,12 +59,14 @@ func (w *World) isPlaced(running []int, known *inventory.Inventory) bool {
 func (w *World) isQuiet(known *inventory.Inventory) bool {
 	records := known.Records()
 	for _, msg := range w.Network() {
-		if msg.Kind >= api.KindClaim {
+		switch {
+		case msg.Kind >= api.KindClaim:
 			return false
-		}
-		known.Merge(msg.Records) // messages of the kind items alone have any
-		if !slices.Equal(known.Records(), records) {
-			return false
+		case msg.Kind == api.KindItems:
+			known.Merge(msg.Records)
+			if !slices.Equal(known.Records(), records) {
+				return false
+			}
 		}
 	}
 	return true

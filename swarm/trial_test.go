@@ -21,12 +21,8 @@ func newTrial(t *testing.T, seed uint64, seen map[string]int) *trial {
 	t.Helper()
 	h := newHistory(t, seed)
 	if h.r.IntN(2) == 0 {
-		h.setup.Blocks = 4 + h.r.IntN(60)
+		h.narrow()
 	}
-	if h.r.IntN(3) == 0 {
-		h.setup.Quota = h.r.IntN(200)
-	}
-	h.begin(h.setup)
 	h.seen = seen
 	return &trial{history: h, m: newModel(h.setup), writable: seed%2 == 0}
 }
@@ -117,8 +113,8 @@ func TestWorldsLikeTheModel(t *testing.T) {
 	})
 	least := map[string]int{
 		"kind 0 fails": 50, "kind 15 fails": 50, "kind 255 fails": 50, "kind 1 fails": 1000, "kind 14": 2000,
-		"code 0": 100, "code 8": 5, "code 12": 30, "code 30": 5, "code 40": 10, "code 41": 1, "code 90": 1,
-		"violated []": 4000, "violated [1]": 3000, "violated [2]": 800, "violated [3]": 800, "violated [4]": 30, "violated [5]": 20,
+		"code 0": 100, "code 8": 5, "code 12": 30, "code 30": 3, "code 40": 3, "code 41": 1, "code 90": 1,
+		"violated []": 4000, "violated [1]": 3000, "violated [2]": 800, "violated [3]": 800, "violated [4]": 30, "violated [5]": 8,
 	}
 	for kind := api.EvTick; kind <= api.EvLeave; kind++ {
 		least[fmt.Sprint("kind ", kind)] = 12
