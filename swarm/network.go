@@ -56,7 +56,7 @@ func (w *World) copyOne(e api.Event) bool {
 	return true
 }
 
-// The sequence of numbers that orders the deliveries of a fair round.
+// What makes the next number of the sequence that orders the deliveries of a fair round; the numbers wrap around.
 const (
 	orderFactor  = 6364136223846793005
 	orderSummand = 1442695040888963407
